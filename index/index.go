@@ -36,14 +36,6 @@ func (i *Index) Rate() int {
 	return i.rate
 }
 
-// Search: where texts that the pattern takes begin, the empty one apart: rising, in a fresh list. In at most budget steps (memo: what has been gone on from is remembered). Faults: ErrArg (budget not 0 .. MaxSteps); ErrLong; ErrSyntax with its place; ErrRange; ErrLarge; ErrBudget.
-func (i *Index) Search(pat string, budget int, memo bool) ([]int, api.Fault) { return nil, api.Fault{} }
-
-// Count: how many there are. Exists: are there any? (With what was gone on from remembered.)
-func (i *Index) Count(pat string, budget int) (int, api.Fault) { return 0, api.Fault{} }
-
-func (i *Index) Exists(pat string, budget int) (bool, api.Fault) { return false, api.Fault{} }
-
 // Extract: the text's bytes from place from to to-1. ErrArg.
 func (i *Index) Extract(from int, to int) (string, api.Errno) {
 	if from < 0 || to < from || to > i.Len() {
