@@ -120,4 +120,10 @@ func TestMemoRemembers(t *testing.T) {
 		counted(t, x, ".*", steps)
 		counted(t, x, ".*", steps-1)
 	}
+	// Of (..)* the places of the pattern are others for an odd and an even number of bytes; at the last place of the text only one byte begins.
+	x := build(t, "abcd", 3)
+	sought(t, x, "(..)*", 11, false, []int{0, 1, 2}, api.Fault{})
+	sought(t, x, "(..)*", 10, false, nil, api.Fault{E: api.ErrBudget})
+	sought(t, x, "(..)*", 8, true, []int{0, 1, 2}, api.Fault{})
+	sought(t, x, "(..)*", 7, true, nil, api.Fault{E: api.ErrBudget})
 }
